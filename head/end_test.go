@@ -95,6 +95,16 @@ func TestHeadsOfMaxHead(t *testing.T) {
 	})
 }
 
+// 8.5: the longest head, cut behind each of its bytes, is too short.
+func TestCutsOfTheLongestHead(t *testing.T) {
+	both(func(what, first string) {
+		b, _ := sized(first, api.MaxHead)
+		for n := range b {
+			wantRefused(t, what, b[:n], n, api.ErrShort)
+		}
+	})
+}
+
 // 8.1: without an end fewer than MaxHead bytes are too few, and all others too many.
 func TestMaxHeadWithoutAnEnd(t *testing.T) {
 	for _, c := range []byte("a \r\n\x00") {
